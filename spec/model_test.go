@@ -55,6 +55,12 @@ func (m *model) next() string {
 	return w
 }
 
+func (m *model) name() string {
+	w := m.next()
+	must(nameForm.MatchString(w), api.ErrForm)
+	return w
+}
+
 func (m *model) number() int {
 	w := m.next()
 	must(numberForm.MatchString(w), api.ErrForm)
@@ -89,7 +95,7 @@ func (m *model) one(part string) int {
 		must(max(r, w2, g) <= 1, api.ErrForm)
 		return r + 2*w2 + 4*g
 	}
-	o, there := m.names[m.next()]
+	o, there := m.names[m.name()]
 	must(there, api.ErrName)
 	must(part == "any" || slices.Contains(strings.Split(part, ","), strconv.Itoa(o.Kind)), api.ErrKind)
 	if part == "any" {
@@ -149,8 +155,7 @@ func (m *model) line(s *spec.Spec, first, form string) {
 	for _, part := range strings.Fields(form) {
 		switch part {
 		case "NAME":
-			name = m.next()
-			must(nameForm.MatchString(name), api.ErrForm)
+			name = m.name()
 			_, there := m.names[name]
 			must(!there, api.ErrTwice)
 		case "digits":

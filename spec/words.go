@@ -39,12 +39,18 @@ func (r *reader) page() int {
 	return r.upTo(api.MaxPages - 1)
 }
 
-// newName takes a name of which no line ahead tells.
-func (r *reader) newName() string {
-	name := r.word()
-	if !isName(name) {
+// name takes a name.
+func (r *reader) name() string {
+	w := r.word()
+	if !isName(w) {
 		r.fail(api.ErrForm)
 	}
+	return w
+}
+
+// newName takes a name of which no line ahead tells.
+func (r *reader) newName() string {
+	name := r.name()
 	if _, there := r.spec.Names[name]; there {
 		r.fail(api.ErrTwice)
 	}
@@ -53,7 +59,7 @@ func (r *reader) newName() string {
 
 // object takes the name of an object of one of these kinds, or of any, if none is told.
 func (r *reader) object(kinds ...int) api.Object {
-	o, there := r.spec.Names[r.word()]
+	o, there := r.spec.Names[r.name()]
 	if !there {
 		r.fail(api.ErrName)
 	}

@@ -135,12 +135,35 @@ func TestKinds(t *testing.T) {
 			}
 		}
 	}
-	// A name must be told of ahead, and what is no name is told of nowhere.
-	for _, n := range []string{"n", "F", "9a", "0", "-", "é", "frame", "f-", strings.Repeat("n", 33)} {
-		wrong(t, api.ErrName, "code "+n+" 0\nstop", "bytes "+n+" 0 00", "cap "+n+" 0 f r", "cap b 0 "+n+" r", "cap b 0 f r from "+n+" 0", "map "+n+" 0 r 0 r", "map b 0 "+n+" 0 r", "start "+n+" 0 0 idle 0", "bind "+n+" l 0", "bind i "+n+" 0")
+}
+
+// asked are lines that name an object, one for each place where one is wanted; behind each place words are missing, or wrong, in the second half of them.
+func asked(word string) []string {
+	return []string{
+		"code " + word + " 0\nstop", "bytes " + word + " 0 00", "cap " + word + " 0 f r", "cap b 0 " + word + " r", "cap b 0 f r from " + word + " 0", "map " + word + " 0 r 0 r", "map b 0 " + word + " 0 r", "start " + word + " 0 0 idle 0", "bind " + word + " l 0", "bind i " + word + " 0",
+		"code " + word, "bytes " + word + " 5000 00", "cap " + word + " 0 n r", "cap b 0 " + word, "cap b 0 f r badge 1 from " + word + " 0 badge 1", "map " + word + " 0 f 0 r", "map b 0 " + word, "start " + word + " f", "bind " + word + " f 0", "bind i " + word,
 	}
+}
+
+// TestObjectsAsked: where an object is wanted, a word is first to be a name, and then to be told of ahead.
+func TestObjectsAsked(t *testing.T) {
+	long := strings.Repeat("n", 32)
+	for _, name := range []string{"n", "F", "_", "f_", "f9", "frame", "stop", "from", "x1", long, "_" + long[1:]} {
+		wrong(t, api.ErrName, asked(name)...)
+	}
+	for _, none := range []string{"9a", "0", "2", "0x01", "4294967296", "-", "-f", "f-", "f-f", "f.", "f:", "f,", "é", "fé", "\u017f", "f\u0301", "٣", "f٣", "\xff", "f\x80", "f\r", "f\x00", long + "n", long + "9", strings.Repeat("é", 16)} {
+		wrong(t, api.ErrForm, asked(none)...)
+	}
+	// Of two words the one on the left is told, whichever of the two is no name.
+	wrong(t, api.ErrName, "cap n 0 9 r", "map n 0 9 0 r", "bind n 9 0", "cap b 0 n r from 9 0")
+	wrong(t, api.ErrForm, "cap 9 0 n r", "map 9 0 n 0 r", "bind 9 n 0", "cap b 0 9 r from n 0")
+	wrong(t, api.ErrKind, "cap f 0 9 r", "map f 0 9 0 r", "bind f 9 0")
+	refused(t, "cap 0", api.ErrForm, 1)
+	refused(t, "cap n", api.ErrName, 1)
 	refused(t, "bytes f 0 00\nframe f 1", api.ErrName, 1)
 	refused(t, "box b 1 8\ncap b 0 c r\nbox c 2 8", api.ErrName, 2)
+	// A word that a line ahead would have told of, had it been a name.
+	refused(t, "frame 9a 2\nbytes 9a 0 00", api.ErrForm, 1)
 }
 
 func TestRights(t *testing.T) {
