@@ -282,6 +282,25 @@ func mapped() api.Spec {
 	return s
 }
 
+// TestPageNought: it may be of each kind, as others may.
+func TestPageNought(t *testing.T) {
+	s := plain()
+	s.Objects = append(s.Objects, api.ObjectSpec{Object: api.Object{Kind: api.Frame}})
+	s.Bytes = []api.BytesSpec{{Data: "abc"}}
+	got, e := taken(t, s).Peek(0, 4)
+	same(t, "bytes", []any{got, e}, []any{"abc\x00", api.OK})
+	for _, again := range []int{api.Table, 12} {
+		s = mapped()
+		s.Objects = append(s.Objects, api.ObjectSpec{Object: api.Object{Kind: api.Root}})
+		s.Maps = []api.MapSpec{{At: api.Slot{Box: api.Box, Index: api.Table}}, {At: api.Slot{Box: api.Box, Index: again}, Va: 0x400000}}
+		refused(t, s, api.ErrState, 1)
+	}
+	s = plain()
+	s.Objects = append(s.Objects, api.ObjectSpec{Object: api.Object{Kind: api.Thread}})
+	s.Threads = []api.ThreadSpec{{Num: 0, Ready: true}}
+	same(t, "Tick", taken(t, s).Tick(), api.Did{Thread: 0, Event: api.Event{Trap: true, Cause: api.FetchAccess}})
+}
+
 func TestBeginThreads(t *testing.T) {
 	for _, c := range []struct {
 		spec api.ThreadSpec
