@@ -395,6 +395,21 @@ func TestNotGiven(t *testing.T) {
 	}
 }
 
+// TestNoneIsNoAddress: not even where that number would lead to a slot.
+func TestNoneIsNoAddress(t *testing.T) {
+	high := "box y 50 2\nthread h 51\ncap h 0 y - guard 0x7fffffff 31\ncap h 1 r0 -\ncap y 0 e rwg badge 5\n"
+	// h gets into the last slot of all, which is empty
+	k := boot(t, system(high+"start h 0 1 ready 0x1000\nstart t1 0 0 ready 0x1000\n", set(18, none)+say(api.CallGet, -2), set(16, 1)+say(api.CallSend, 0, 7)))
+	rest(t, k)
+	regs(t, k, 51, 0, 7, 0, 0, 0, 0, 101, 0, 4294967295)
+	same(t, "what is given", held(k, 50, 1), api.Entry{})
+	// h sends what stands there
+	k = boot(t, system(high+"cap y 1 b rw\nstart h 0 1 ready 0x1000\nstart t1 0 0 ready 0x1000\n", set(16, none)+say(api.CallSend, -2, 7), set(18, 12)+say(api.CallGet, 0)))
+	rest(t, k)
+	regs(t, k, 20, 0, 7, 0, 0, 0, 0, 5, 0)
+	same(t, "what is given", held(k, 19, 12), api.Entry{})
+}
+
 // TestNothingIsGivenWithAFault: also where the end gives Grant, and where one to which the thread sent ahead did.
 func TestNothingIsGivenWithAFault(t *testing.T) {
 	for _, rights := range []string{"w", "wg"} {
