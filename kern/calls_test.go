@@ -6,6 +6,7 @@ import (
 	"testing"
 
 	"vault/api"
+	"vault/kern"
 )
 
 // none in a register says that there is no address: it is 4294967295 there.
@@ -132,6 +133,16 @@ func TestTryAndPoll(t *testing.T) {
 	line(t, k, 60, 10)
 }
 
+// nextCall: ticks up to one in which a call is made, but no more than a few.
+func nextCall(k *kern.Kernel) (did api.Did) {
+	for range 20 {
+		if did = k.Tick(); did.Event.Cause == api.Ecall {
+			break
+		}
+	}
+	return did
+}
+
 // TestLineAtAnEnd: who came first is met first.
 func TestLineAtAnEnd(t *testing.T) {
 	get := say(api.CallGet, 2)
@@ -139,8 +150,7 @@ func TestLineAtAnEnd(t *testing.T) {
 	ticks(k, 3*lines(2))
 	line(t, k, 62, 20, 30, 40)
 	for n, left := range [][]int{{30, 40}, {40}, nil} {
-		for k.Tick().Event.Cause != api.Ecall {
-		}
+		same(t, "the call", nextCall(k), made(10, api.CallGet, api.OK))
 		regs(t, k, 10, 0, uint32(n+1))
 		line(t, k, 62, left...)
 	}
