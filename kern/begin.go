@@ -22,7 +22,7 @@ func bare(s api.Spec) (*Kernel, api.Errno) {
 	pages, _ := pool.New(s.Pages) // which may be so many, since mem took them
 	k := &Kernel{memory: memory, boxes: caps.New(), pool: pages, sched: turns, bus: ipc.New(), threads: map[int]*thread{}, calls: s.Calls}
 	for n := range k.irqs {
-		k.irqs[n].bell = api.None
+		k.irqs[n] = unbound()
 	}
 	return k, api.OK
 }

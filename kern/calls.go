@@ -13,7 +13,7 @@ func (k *Kernel) call(t *thread) (int, api.Errno) {
 		return 0, api.ErrCall
 	}
 	e := work(k, t)
-	if !t.isHeld() { // an answer says OK there too, as this does then
+	if !t.isHeld() { // an answer says OK there too, as this does then; of a thread that has gone nobody sees it
 		t.context.Regs[errReg] = uint32(e)
 	}
 	return int(number), e
@@ -30,17 +30,35 @@ func (k *Kernel) workOf(number uint32) func(*Kernel, *thread) api.Errno {
 // works has what is done for each call, by its number.
 func works() [api.LastCall + 1]func(*Kernel, *thread) api.Errno {
 	return [api.LastCall + 1]func(*Kernel, *thread) api.Errno{
-		api.CallSend:   (*Kernel).send,
-		api.CallTry:    (*Kernel).try,
-		api.CallCall:   (*Kernel).callEnd,
-		api.CallGet:    (*Kernel).get,
-		api.CallPoll:   (*Kernel).poll,
-		api.CallReply:  (*Kernel).reply,
-		api.CallServe:  (*Kernel).serve,
-		api.CallYield:  (*Kernel).yield,
-		api.CallRing:   (*Kernel).ringBell,
-		api.CallHear:   (*Kernel).hear,
-		api.CallListen: (*Kernel).listen,
+		api.CallSend:    (*Kernel).send,
+		api.CallTry:     (*Kernel).try,
+		api.CallCall:    (*Kernel).callEnd,
+		api.CallGet:     (*Kernel).get,
+		api.CallPoll:    (*Kernel).poll,
+		api.CallReply:   (*Kernel).reply,
+		api.CallServe:   (*Kernel).serve,
+		api.CallYield:   (*Kernel).yield,
+		api.CallRing:    (*Kernel).ringBell,
+		api.CallHear:    (*Kernel).hear,
+		api.CallListen:  (*Kernel).listen,
+		api.CallRetype:  (*Kernel).retype,
+		api.CallCopy:    (*Kernel).copyCap,
+		api.CallMint:    (*Kernel).mintCap,
+		api.CallMove:    (*Kernel).moveCap,
+		api.CallDelete:  (*Kernel).deleteNamed,
+		api.CallRevoke:  (*Kernel).revokeNamed,
+		api.CallTable:   (*Kernel).mapNamedTable,
+		api.CallMap:     (*Kernel).mapNamedFrame,
+		api.CallUnmap:   (*Kernel).unmapNamed,
+		api.CallSetup:   (*Kernel).setup,
+		api.CallRegs:    (*Kernel).setRegs,
+		api.CallResume:  (*Kernel).resume,
+		api.CallSuspend: (*Kernel).suspendNamed,
+		api.CallPrio:    (*Kernel).setPrio,
+		api.CallBind:    (*Kernel).bind,
+		api.CallAck:     (*Kernel).ack,
+		api.CallPut:     (*Kernel).put,
+		api.CallTake:    (*Kernel).take,
 	}
 }
 

@@ -23,6 +23,11 @@ func derived(c api.Cap, rights int) api.Cap {
 	return c
 }
 
+// tableStart is the first address that a table serves which serves this one.
+func tableStart(va uint32) uint32 {
+	return va - va%tableLen
+}
+
 // mapAt maps the capability of a frame or table that stands in a slot.
 func (k *Kernel) mapAt(at api.Slot, c api.Cap, root int, va uint32, rights int) api.Errno {
 	if c.Root > 0 {
@@ -30,7 +35,7 @@ func (k *Kernel) mapAt(at api.Slot, c api.Cap, root int, va uint32, rights int) 
 	}
 	var e api.Errno
 	if c.Kind == api.Table {
-		va -= va % tableLen
+		va = tableStart(va)
 		e = k.mapTable(c.Object, root, va)
 	} else {
 		e = k.mapFrame(c, root, va, rights)

@@ -97,6 +97,18 @@ func rest(t *testing.T, k *kern.Kernel) (calls []api.Did) {
 	return nil
 }
 
+// until: ticks, till a thread makes a call, which must go well.
+func until(t *testing.T, k *kern.Kernel, thread, call int) {
+	t.Helper()
+	for range 500 {
+		if did := k.Tick(); did.Thread == thread && did.Call == call {
+			same(t, "the call", did, made(thread, call, api.OK))
+			return
+		}
+	}
+	t.Fatalf("thread %d does not make call %d", thread, call)
+}
+
 // made: what a tick tells in which a call was made.
 func made(thread, call int, e api.Errno) api.Did {
 	return api.Did{Thread: thread, Event: api.Event{Trap: true, Cause: api.Ecall}, Call: call, Err: e}

@@ -16,6 +16,11 @@ type port struct {
 	in, out string
 }
 
+// unbound is an interrupt as it is at first.
+func unbound() irq {
+	return irq{bell: api.None}
+}
+
 func isIrq(n int) bool {
 	return n >= 0 && n < api.MaxIrq
 }

@@ -20,6 +20,16 @@ const (
 // noAddress in a register says that there is none.
 const noAddress = 4294967295
 
+// arg is a call's word: 0 is the first one.
+func (t *thread) arg(n int) uint32 {
+	return t.context.Regs[firstReg+n]
+}
+
+// rights are those that a call's word tells of: its lowest three bits.
+func (t *thread) rights(n int) int {
+	return int(t.arg(n) & allRights)
+}
+
 // message is what a thread's registers say, with a badge.
 func (t *thread) message(badge uint32) api.Message {
 	m := api.Message{Label: t.context.Regs[labelReg], Badge: badge}

@@ -24,12 +24,14 @@ type model struct {
 	idle    int // ticks since somebody ran
 	clock   int
 	objects []api.Object
+	marks   map[int]int // of untypeds
 	sizes   map[int]int
 	heap    map[api.Slot]api.Entry
 	cards   map[int]*card
 	words   map[int]uint32 // of bells
 	lines   [8]row
 	fed     [8]string
+	put     [8]string
 	seen    map[string]int // what has happened
 }
 
@@ -205,9 +207,14 @@ func wants(call uint32) (kind, right int, ok bool) {
 func (m *model) call(c *card) (int, api.Errno) {
 	x := &c.Context.Regs
 	call := x[17]
-	if call < 1 || call > api.CallListen || m.calls&(1<<call) == 0 {
+	if call < 1 || call > api.LastCall || m.calls&(1<<call) == 0 {
 		x[10] = uint32(api.ErrCall)
 		return 0, api.ErrCall
+	}
+	if call > api.CallListen {
+		e := m.more(c, call)
+		x[10] = uint32(e) // nobody waits, who makes one of these
+		return int(call), e
 	}
 	e := m.do(c, call)
 	if e != api.OK || c.State == api.Ready {
@@ -422,6 +429,15 @@ func (m *model) feed(n int, s string) (int, api.Errno) {
 	return len(m.fed[n]) - was, api.OK
 }
 
+func (m *model) drain(n int) (string, api.Errno) {
+	if n < 0 || n > 7 {
+		return "", api.ErrArg
+	}
+	s := m.put[n]
+	m.put[n] = ""
+	return s, api.OK
+}
+
 func (m *model) threads() (l []api.ThreadLook) {
 	for _, num := range slices.Sorted(maps.Keys(m.cards)) {
 		l = append(l, m.cards[num].ThreadLook)
@@ -441,7 +457,7 @@ func (m *model) holds(l []api.Entry) bool {
 
 // begin tells what begins once more: a model, or an error and where.
 func begin(s api.Spec) (*model, api.Errno, int) {
-	m := &model{turns: s.Turns, calls: s.Calls, sizes: map[int]int{}, heap: map[api.Slot]api.Entry{}, cards: map[int]*card{}, words: map[int]uint32{}, seen: map[string]int{}}
+	m := &model{turns: s.Turns, calls: s.Calls, marks: map[int]int{}, sizes: map[int]int{}, heap: map[api.Slot]api.Entry{}, cards: map[int]*card{}, words: map[int]uint32{}, seen: map[string]int{}}
 	if s.Pages < 1 || s.Pages > 256 || len(s.Turns) < 1 || len(s.Turns) > 16 {
 		return nil, api.ErrArg, 0
 	}
@@ -527,15 +543,21 @@ func (m *model) object(x api.ObjectSpec) api.Errno {
 			}
 		}
 	}
+	m.come(x)
+	return api.OK
+}
+
+func (m *model) come(x api.ObjectSpec) {
 	m.objects = append(m.objects, x.Object)
 	switch x.Kind {
+	case api.Untyped:
+		m.marks[x.Num] = 0
 	case api.Box:
 		m.sizes[x.Num] = x.Size
 	case api.Thread:
 		m.sizes[x.Num] = 4
 		m.cards[x.Num] = &card{ThreadLook: api.ThreadLook{Num: x.Num, At: api.None, Caller: api.None, Waits: api.None}}
 	}
-	return api.OK
 }
 
 func (m *model) bytes(x api.BytesSpec) api.Errno {
@@ -602,7 +624,12 @@ func (m *model) mapping(x api.MapSpec) api.Errno {
 		return api.ErrKind
 	case !slices.Contains(m.objects, api.Object{Kind: api.Root, Num: x.Root}):
 		return api.ErrName
-	case entry.Cap.Root != 0:
+	}
+	return m.mapAt(entry, x)
+}
+
+func (m *model) mapAt(entry api.Entry, x api.MapSpec) api.Errno {
+	if entry.Cap.Root != 0 {
 		return api.ErrState
 	}
 	var e api.Errno

@@ -1,6 +1,7 @@
 package kern_test
 
 import (
+	"cmp"
 	"fmt"
 	"math"
 	"math/rand"
@@ -14,7 +15,7 @@ import (
 	"vault/kern"
 )
 
-const randomPages = 48
+const randomPages = 64
 
 // callAt: a call, mostly one of those that suit (who gets, or who sends), with an address that mostly suits it.
 func callAt(r *rand.Rand, gets bool) string {
@@ -205,23 +206,64 @@ func compare(k *kern.Kernel, m *model) string {
 	if wantTurn, wantLeft := m.place(); turn != wantTurn || left != wantLeft {
 		return fmt.Sprintf("Turn: %d, %d, wanted %d, %d", turn, left, wantTurn, wantLeft)
 	}
-	for _, c := range m.cards {
-		if got, _ := k.Queue(c.Domain, c.Prio); !slices.Equal(got, numbers(m.queue(c.Domain, c.Prio))) {
-			return fmt.Sprintf("Queue(%d, %d): %v", c.Domain, c.Prio, got)
-		}
-	}
-	for _, o := range m.objects {
-		line, e := k.Line(o.Num)
-		word, f := k.Word(o.Num)
-		if bell := o.Kind == api.Bell; (e == api.OK) != (bell || o.Kind == api.End) || (f == api.OK) != bell || word != m.words[o.Num] || e == api.OK && !slices.Equal(line, numbers(m.line(o.Num))) {
-			return fmt.Sprintf("place %v: %v, %d, %d, %d", o, line, e, word, f)
+	for prio := range 16 {
+		if got, _ := k.Queue(prio/8, prio%8); !slices.Equal(got, numbers(m.queue(prio/8, prio%8))) {
+			return fmt.Sprintf("Queue(%d, %d): %v", prio/8, prio%8, got)
 		}
 	}
 	for n, x := range m.lines {
 		bell, badge, masked, pending, e := k.Irq(n)
 		in, out, f := k.Waiting(n)
-		if (row{bell, badge, masked, pending}) != x || in != m.fed[n] || out != "" || e != api.OK || f != api.OK {
+		if (row{bell, badge, masked, pending}) != x || in != m.fed[n] || out != m.put[n] || e != api.OK || f != api.OK {
 			return fmt.Sprintf("Irq(%d): %d, %d, %v, %v; Waiting: %q, %q", n, bell, badge, masked, pending, in, out)
+		}
+	}
+	return compareObjects(k, m)
+}
+
+// compareObjects: what lies in memory, and what is told of it.
+func compareObjects(k *kern.Kernel, m *model) string {
+	slices.SortFunc(m.objects, func(a, b api.Object) int {
+		return cmp.Or(cmp.Compare(a.Kind, b.Kind), cmp.Compare(a.Num, b.Num))
+	})
+	if got := k.Objects(); !slices.Equal(got, m.objects) {
+		return fmt.Sprintf("Objects: %v\nwanted %v", got, m.objects)
+	}
+	kinds := make([]int, randomPages)
+	for _, o := range m.objects {
+		if o.Kind == api.Untyped {
+			if mark, e := k.Mark(o.Num); mark != m.marks[o.Num] || e != api.OK {
+				return fmt.Sprintf("Mark(%d): %d, %d, wanted %d", o.Num, mark, e, m.marks[o.Num])
+			}
+			continue
+		}
+		kinds[o.Num] = o.Kind
+	}
+	for n, kind := range kinds {
+		line, e := k.Line(n)
+		word, f := k.Word(n)
+		size, g := k.Size(n)
+		bell, box := kind == api.Bell, kind == api.Box || kind == api.Thread
+		if (e == api.OK) != (bell || kind == api.End) || (f == api.OK) != bell || word != m.words[n] || e == api.OK && !slices.Equal(line, numbers(m.line(n))) {
+			return fmt.Sprintf("place %d: %v, %d, %d, %d", n, line, e, word, f)
+		}
+		if size != m.sizes[n] || (g == api.OK) != box {
+			return fmt.Sprintf("Size(%d): %d, %d, wanted %d", n, size, g, m.sizes[n])
+		}
+	}
+	return ""
+}
+
+// compareBytes: all bytes of memory.
+func compareBytes(k *kern.Kernel, m *model) string {
+	got, _ := k.Peek(0, randomPages*api.PageLen)
+	want, _ := m.memory.Read(0, randomPages*api.PageLen)
+	if got == want {
+		return ""
+	}
+	for i := range want {
+		if got[i] != want[i] {
+			return fmt.Sprintf("byte %d of page %d is %d, wanted %d", i%api.PageLen, i/api.PageLen, got[i], want[i])
 		}
 	}
 	return ""
@@ -241,12 +283,17 @@ func goOn(r *rand.Rand, k *kern.Kernel, m *model) string {
 			return fmt.Sprintf("Feed(%d, %q): %d, %d, wanted %d, %d", n, s, fed, e, want, wantE)
 		}
 	case 2:
-		if s, e := k.Drain(n); s != "" || (e == api.OK) != (n >= 0 && n < 8) {
-			return fmt.Sprintf("Drain(%d): %q, %d", n, s, e)
+		s, e := k.Drain(n)
+		if want, wantE := m.drain(n); s != want || e != wantE {
+			return fmt.Sprintf("Drain(%d): %q, %d, wanted %q, %d", n, s, e, want, wantE)
 		}
 	default:
-		if got, want := k.Tick(), m.tick(); got != want {
+		got, want := k.Tick(), m.tick()
+		if got != want {
 			return fmt.Sprintf("Tick: %v, wanted %v", got, want)
+		}
+		if !got.Event.Trap && r.Intn(8) > 0 {
+			return ""
 		}
 	}
 	return compare(k, m)
@@ -267,9 +314,8 @@ func TestAtRandom(t *testing.T) {
 				t.Fatalf("system %d, step %d: %s", n, step, wrong)
 			}
 		}
-		got, _ := k.Peek(0, randomPages*api.PageLen)
-		if want, _ := m.memory.Read(0, randomPages*api.PageLen); got != want {
-			t.Fatalf("system %d: the bytes are others", n)
+		if wrong := compareBytes(k, m); wrong != "" {
+			t.Fatalf("system %d: %s", n, wrong)
 		}
 		for what, often := range m.seen {
 			seen[what] += often
