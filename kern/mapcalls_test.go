@@ -1,9 +1,11 @@
 package kern_test
 
 import (
+	"fmt"
 	"testing"
 
 	"vault/api"
+	"vault/kern"
 )
 
 func TestTable(t *testing.T) {
@@ -138,4 +140,19 @@ func TestUnmapTable(t *testing.T) {
 	// so that it may be mapped elsewhere, with other frames in it
 	k = play(t, "", append(steps, does(api.CallUnmap, api.OK, 20), does(api.CallTable, api.OK, 20, inRoot, 0xc00000), does(api.CallMap, api.OK, 30, inRoot, 0xc01000, 1))...)
 	mappings(t, k, ofRoot, append(stay, api.Mapping{Va: 0xc01000, Page: 36, Rights: 1})...)
+}
+
+// TestExamples: those of the document that tell of calls.
+func TestExamples(t *testing.T) {
+	adds := func(calls string, address int) *kern.Kernel {
+		return boot(t, calls+"pages 8\nturn 0 9\nroot r 1\ntable t 2\nframe c 3\nframe d 4\nbox x 5 8\nthread h 6\ncap x 0 t rw\ncap x 1 c rx\ncap x 2 d rw\ncap h 0 x rw guard 0 29\ncap h 1 r rw\nmap x 0 r 0 -\nmap x 1 r 0x1000 rx\nmap x 2 r 0x2000 rw\n"+
+			fmt.Sprintf("code c 0\nli x10, %d\nli x17, 20\necall\nlw x6, 0x7ff(x0)\nstop\nstart h 0 0 ready 0x1000\n", address))
+	}
+	k := adds("", 2)
+	same(t, "the fifth tick", ticks(k, 5), made(6, api.CallUnmap, api.OK))
+	mappings(t, k, 1, api.Mapping{Va: 0x1000, Page: 3, Rights: 5})
+	same(t, "the sixth tick", k.Tick(), api.Did{Thread: 6, Event: api.Event{Trap: true, Cause: api.LoadAlign, Tval: 0x7ff}})
+	same(t, "nine", ticks(adds("", 9), 5), made(6, api.CallUnmap, api.ErrSlot))
+	same(t, "five", ticks(adds("", 5), 5), made(6, api.CallUnmap, api.ErrEmpty))
+	same(t, "without the call", ticks(adds("calls 1 2\n", 5), 5), made(6, 0, api.ErrCall))
 }
