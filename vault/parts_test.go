@@ -77,7 +77,7 @@ func newPart(r *rand.Rand, n int, nums []int, code func(role int) string) *part 
 	return p
 }
 
-// thread: its slots and code. Of its addresses 0 to 31 are the slots of its box x, 32 to 35 those of its box y, 64 to 95 and 96 to 127 those of boxes in the slots 2 and 3 of y.
+// thread: its slots. Of its addresses 0 to 31 are the slots of its box x, 32 to 35 those of its box y, 64 to 95 and 96 to 127 those of boxes in the slots 2 and 3 of y.
 // What the threads share the first one has from nowhere, the others from the first one.
 func (p *part) thread(j int) {
 	shared := []string{"e@", "f@", "b@", "u@", "w@", "s@", "h@0", "h@1"}
